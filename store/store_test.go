@@ -605,7 +605,7 @@ func TestOpenWithoutPower(t *testing.T) {
 	n := steps(t, d, func() error { return s.Save(next) })
 	for fail := range n {
 		for _, keep := range [][]int{nil, {0}, {1}, {0, 1, 2, 3}} {
-			for again := range 6 {
+			for again := range 9 {
 				d, s := mustStore(t, was)
 				d.Fail(fail)
 				wantSave(t, s, next, api.ErrDown)
